@@ -366,6 +366,7 @@ func TestArgumentsStay(t *testing.T) {
 			l, err := Seen(u)
 			return api.Union{Upper: l}, err
 		}},
+		{"Copy", func(u api.Union) (api.Union, api.Errno) { return Copy(u), api.OK }},
 	}
 	for _, s := range []string{"a d/ d/e", "| a d/ d/e", "a d/ d/e | a | d/ d/e | | a", "d/! d/e z- | a d/ z", "a d/ d/e | | |"} {
 		for _, c := range calls {

@@ -169,3 +169,16 @@ func TestSeenAnswersNewMemory(t *testing.T) {
 		}
 	}
 }
+
+// Copy asks nothing of a union.
+func TestCopy(t *testing.T) {
+	all := rightUnions()
+	for _, x := range wrongUnions() {
+		all = append(all, x.u)
+	}
+	for _, u := range all {
+		if got := Copy(u); !equal(got, u) {
+			t.Errorf("Copy(%v) is %v", u, got)
+		}
+	}
+}
